@@ -214,19 +214,26 @@ func TestPlacesHaveTwoBytes(t *testing.T) {
 	}
 }
 
-func TestBlocksOfWrongCells(t *testing.T) {
+type wrongList struct {
+	why  string
+	list []impl.Cell
+}
+
+// wrongLists are Cells that aren't CellsOk.
+func wrongLists() []wrongList {
 	a, b, c := valueOf("a", "x", 7, "v"), goneAt("a", "x", 5), valueOf("b", "x", 5, "w")
-	for _, x := range []struct {
-		why  string
-		list []impl.Cell
-	}{
+	return []wrongList{
 		{"out of order", []impl.Cell{b, a}}, {"out of order", []impl.Cell{a, c, b}}, {"out of order", []impl.Cell{c, a, b}},
 		{"two that are one", []impl.Cell{a, a}}, {"two that are one", []impl.Cell{a, b, c, c}}, {"two of one time", []impl.Cell{a, goneAt("a", "x", 7)}},
 		{"one that isn't right", []impl.Cell{{}}}, {"one that isn't right", []impl.Cell{a, b, {}}}, {"a row that is no name", []impl.Cell{valueOf("a b", "x", 7, "v")}},
 		{"no column", []impl.Cell{valueOf("a", "", 7, "v")}}, {"a column too long", []impl.Cell{valueOf("a", longestName+"n", 7, "v")}},
 		{"a time below 0", []impl.Cell{a, valueOf("a", "x", -1, "v")}}, {"a time above MaxAt", []impl.Cell{valueOf("a", "x", 1000000001, "v"), a}},
 		{"a value too long", []impl.Cell{a, valueOf("b", "x", 5, strings.Repeat("v", 31))}}, {"a Gone one with a value", []impl.Cell{{Row: "a", Col: "x", At: 5, Gone: true, Value: "v"}}},
-	} {
+	}
+}
+
+func TestBlocksOfWrongCells(t *testing.T) {
+	for _, x := range wrongLists() {
 		for every := 1; every <= 16; every++ {
 			checkNoPut(t, x.why, x.list, every)
 			checkNoBlock(t, x.why, blockByWord(x.list, every), every)
@@ -458,8 +465,10 @@ func sealedByWord(s string) string {
 }
 
 func wrappedByWord(s string, pack bool) string {
-	if packed := packedByWord(tokensByWord(s)); pack && len(packed) < len(s) {
-		return sealedByWord(packed + "\x01")
+	if pack {
+		if packed := packedByWord(tokensByWord(s)); len(packed) < len(s) {
+			return sealedByWord(packed + "\x01")
+		}
 	}
 	return sealedByWord(s + "\x00")
 }
